@@ -1,0 +1,70 @@
+package annal
+
+import (
+	"slices"
+
+	"annal/api"
+)
+
+// refusePost goes through all lines anew for each error, as an error that is
+// named first is answered even if its line stands behind another wrong one.
+func (b *Book) refusePost(day int, lines []api.Line) api.Errno {
+	switch {
+	case !isDay(day):
+		return api.ErrDay
+	case len(lines) < 2 || len(lines) > api.MaxLines:
+		return api.ErrLines
+	case slices.ContainsFunc(lines, b.isMissing):
+		return api.ErrNone
+	case anyTwice(lines):
+		return api.ErrTwice
+	case slices.ContainsFunc(lines, isWrongAmount):
+		return api.ErrAmount
+	case sum(lines) != 0:
+		return api.ErrSum
+	case day < b.unlocked:
+		return api.ErrLocked
+	case b.entries >= api.MaxEntries:
+		return api.ErrMany
+	}
+	return api.OK
+}
+
+// refuseView is for what is asked of the past.
+func (b *Book) refuseView(known int, days ...int) api.Errno {
+	for _, day := range days {
+		if !isDay(day) {
+			return api.ErrDay
+		}
+	}
+	if known < 0 || known > b.entries {
+		return api.ErrNumber
+	}
+	return api.OK
+}
+
+func isDay(day int) bool { return day >= 0 && day <= api.MaxDay }
+
+func (b *Book) isMissing(line api.Line) bool { return b.find(line.Account) == nil }
+
+func anyTwice(lines []api.Line) bool {
+	for i, line := range lines {
+		same := func(other api.Line) bool { return other.Account == line.Account }
+		if slices.ContainsFunc(lines[:i], same) {
+			return true
+		}
+	}
+	return false
+}
+
+func isWrongAmount(line api.Line) bool {
+	return line.Amount == 0 || line.Amount < -api.MaxAmount || line.Amount > api.MaxAmount
+}
+
+func sum(lines []api.Line) int {
+	total := 0
+	for _, line := range lines {
+		total += line.Amount
+	}
+	return total
+}
