@@ -4,7 +4,6 @@ import (
 	"cmp"
 	"slices"
 
-	"annal/api"
 	"annal/history"
 )
 
@@ -28,13 +27,4 @@ func (b *Book) find(name string) *account {
 		return nil
 	}
 	return b.accounts[place]
-}
-
-// enter writes an entry whose accounts are all there, and answers its number.
-func (b *Book) enter(day int, lines []api.Line) int {
-	b.entries++
-	for _, line := range lines {
-		b.find(line.Account).past.Add(api.Item{Entry: b.entries, Day: day, Amount: line.Amount})
-	}
-	return b.entries
 }

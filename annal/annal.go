@@ -12,8 +12,8 @@ import (
 // Book is a ledger.
 type Book struct {
 	accounts []*account // by their names
-	entries  int
-	unlocked int // the first day that is not locked
+	entries  []deed     // the first one has the number 1
+	unlocked int        // the first day that is not locked
 }
 
 // New makes a book (P3).
@@ -43,17 +43,39 @@ func (b *Book) Post(day int, lines []api.Line) (int, api.Errno) {
 	if refusal := b.refusePost(day, lines); refusal != api.OK {
 		return 0, refusal
 	}
-	return b.enter(day, lines), api.OK
+	return b.enter(b.posted(day, lines)), api.OK
 }
 
 // Reverse writes the opposite of an entry (P6).
-func (b *Book) Reverse(entry int) (int, api.Errno) { return 0, api.OK }
+func (b *Book) Reverse(entry int) (int, api.Errno) {
+	if refusal := b.refuseReverse(entry); refusal != api.OK {
+		return 0, refusal
+	}
+	return b.enter(b.reversed(entry)), api.OK
+}
 
 // Lock locks all days up to one (P7).
-func (b *Book) Lock(day int) api.Errno { return api.OK }
+func (b *Book) Lock(day int) api.Errno {
+	switch {
+	case !isDay(day):
+		return api.ErrDay
+	case b.isLocked(day):
+		return api.ErrLocked
+	}
+	b.unlocked = day + 1
+	return api.OK
+}
 
 // Close brings what flowed into a stock (P7).
-func (b *Book) Close(day int, into string) (int, api.Errno) { return 0, api.OK }
+func (b *Book) Close(day int, into string) (int, api.Errno) {
+	stock := b.find(into)
+	if refusal := b.refuseClose(day, stock); refusal != api.OK {
+		return 0, refusal
+	}
+	number := b.enter(b.closed(day, stock))
+	b.unlocked = day + 1
+	return number, api.OK
+}
 
 // Balance tells an account's (P8).
 func (b *Book) Balance(name string, day int, known int) (int, api.Errno) {

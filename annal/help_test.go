@@ -56,6 +56,20 @@ func wantPost(t *testing.T, b *annal.Book, day int, lines []api.Line, number int
 	}
 }
 
+func wantReverse(t *testing.T, b *annal.Book, entry, number int, errno api.Errno) {
+	t.Helper()
+	if n, e := b.Reverse(entry); n != number || e != errno {
+		t.Errorf("Reverse(%d) = %d, %d, want %d, %d", entry, n, e, number, errno)
+	}
+}
+
+func wantClose(t *testing.T, b *annal.Book, day int, into string, number int, errno api.Errno) {
+	t.Helper()
+	if n, e := b.Close(day, into); n != number || e != errno {
+		t.Errorf("Close(%d, %q) = %d, %d, want %d, %d", day, into, n, e, number, errno)
+	}
+}
+
 func wantBalance(t *testing.T, b *annal.Book, name string, day, known, balance int, errno api.Errno) {
 	t.Helper()
 	if n, e := b.Balance(name, day, known); n != balance || e != errno {

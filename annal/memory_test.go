@@ -19,6 +19,9 @@ func TestP2ListsHandedIn(t *testing.T) {
 	filled(whole, api.Line{Account: "a", Amount: 99})
 	wantTrial(t, b, 1, 1, linesOf("a", -7, "b", 7), api.OK)
 	wantItems(t, b, "b", 0, 9, 1, itemsOf(1, 1, 7), api.OK)
+	wantReverse(t, b, 1, 2, api.OK)
+	wantItems(t, b, "b", 0, 9, 2, itemsOf(1, 1, 7, 2, 1, -7), api.OK)
+	wantTrial(t, b, 1, 2, nil, api.OK)
 }
 
 func TestP2AnswersAreNew(t *testing.T) {
