@@ -8,8 +8,7 @@ import (
 )
 
 type account struct {
-	name string
-	kind int
+	opening
 	past history.History
 }
 

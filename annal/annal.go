@@ -12,7 +12,8 @@ import (
 // Book is a ledger.
 type Book struct {
 	accounts []*account // by their names
-	entries  []deed     // the first one has the number 1
+	done     []deed     // all that was done, in order
+	entries  []entering // of it, what wrote entries: the first one has the number 1
 	unlocked int        // the first day that is not locked
 }
 
@@ -33,8 +34,9 @@ func (b *Book) Open(name string, kind int) api.Errno {
 		return api.ErrMany
 	}
 	// A name may be a piece of a long text, which a book must not hold on to.
-	opened := &account{name: strings.Clone(name), kind: kind}
-	b.accounts = slices.Insert(b.accounts, place, opened)
+	opened := opening{name: strings.Clone(name), kind: kind}
+	b.accounts = slices.Insert(b.accounts, place, &account{opening: opened})
+	b.done = append(b.done, opened)
 	return api.OK
 }
 
@@ -62,6 +64,7 @@ func (b *Book) Lock(day int) api.Errno {
 	case b.isLocked(day):
 		return api.ErrLocked
 	}
+	b.done = append(b.done, locking{dated{day}})
 	b.unlocked = day + 1
 	return api.OK
 }
@@ -116,7 +119,23 @@ func (b *Book) Items(name string, from int, to int, known int) ([]api.Item, api.
 }
 
 // Write tells a book as a text (P9).
-func (b *Book) Write() string { return "" }
+func (b *Book) Write() string {
+	var text strings.Builder
+	for _, d := range b.done {
+		text.WriteString(strings.Join(d.words(), " "))
+		text.WriteByte('\n')
+	}
+	return text.String()
+}
 
 // Read makes a book of a text (P10).
-func Read(text string) (*Book, int, api.Errno) { return nil, 0, api.OK }
+func Read(text string) (*Book, int, api.Errno) {
+	b, number := New(), 0
+	for line := range strings.Lines(text) {
+		number++
+		if refusal := b.redo(line); refusal != api.OK {
+			return nil, number, refusal
+		}
+	}
+	return b, 0, api.OK
+}

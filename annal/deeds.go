@@ -2,19 +2,31 @@ package annal
 
 import (
 	"slices"
+	"strconv"
 
 	"annal/api"
 )
 
-// deed is something that was done and wrote an entry.
+// deed is something that was done and was answered OK.
 type deed interface {
+	words() []string // of its line in the text
+}
+
+// entering is a deed that wrote an entry.
+type entering interface {
+	deed
 	entered() written
 	undoes() int
 }
 
+// dated is what all deeds of a day have in common.
+type dated struct{ day int }
+
+func (d dated) dayWord() string { return strconv.Itoa(d.day) }
+
 // written is what all entries have in common, whatever wrote them.
 type written struct {
-	day   int
+	dated
 	lines []api.Line
 }
 
@@ -23,9 +35,12 @@ func (w written) entered() written { return w }
 // undoes is the number of the entry that this one reverses, or 0.
 func (w written) undoes() int { return 0 }
 
-type posting struct{ written }
+type opening struct {
+	name string
+	kind int
+}
 
-type closing struct{ written }
+type posting struct{ written }
 
 type reversal struct {
 	written
@@ -34,10 +49,18 @@ type reversal struct {
 
 func (r reversal) undoes() int { return r.undone }
 
+type locking struct{ dated }
+
+type closing struct {
+	written
+	into string
+}
+
 // enter writes an entry whose accounts are all there, and answers its number.
-func (b *Book) enter(d deed) int {
-	b.entries = append(b.entries, d)
-	number, entry := len(b.entries), d.entered()
+func (b *Book) enter(e entering) int {
+	b.done = append(b.done, e)
+	b.entries = append(b.entries, e)
+	number, entry := len(b.entries), e.entered()
 	for _, line := range entry.lines {
 		item := api.Item{Entry: number, Day: entry.day, Amount: line.Amount}
 		b.find(line.Account).past.Add(item)
@@ -52,13 +75,13 @@ func (b *Book) posted(day int, lines []api.Line) posting {
 	for i := range own {
 		own[i].Account = b.find(own[i].Account).name
 	}
-	return posting{written{day, own}}
+	return posting{written{dated{day}, own}}
 }
 
 func (b *Book) reversed(number int) reversal {
 	undone := b.entries[number-1].entered()
 	day := max(undone.day, b.unlocked)
-	return reversal{written{day, opposite(undone.lines)}, number}
+	return reversal{written{dated{day}, opposite(undone.lines)}, number}
 }
 
 func (b *Book) closed(day int, into *account) closing {
@@ -67,7 +90,7 @@ func (b *Book) closed(day int, into *account) closing {
 	if had := sum(flowed); had != 0 {
 		lines = append(lines, api.Line{Account: into.name, Amount: had})
 	}
-	return closing{written{day, lines}}
+	return closing{written{dated{day}, lines}, into.name}
 }
 
 // flowed is what each Flow has on a day, known by all entries, if not 0.

@@ -13,7 +13,7 @@ import (
 type drawing struct{ *rand.Rand }
 
 func beginning(seed int64) (drawing, *annal.Book, *plain) {
-	return drawing{rand.New(rand.NewSource(seed))}, annal.New(), &plain{kinds: map[string]int{}}
+	return drawing{rand.New(rand.NewSource(seed))}, annal.New(), newPlain()
 }
 
 var (

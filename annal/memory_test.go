@@ -3,6 +3,7 @@ package annal_test
 import (
 	"slices"
 	"testing"
+	"unsafe"
 
 	"annal/api"
 )
@@ -57,4 +58,29 @@ func TestP2SpareRoomHoldsNothing(t *testing.T) {
 			t.Errorf("the spare room of items has %v", item)
 		}
 	}
+}
+
+// TestP2TextsHandedIn: the bytes behind a text or a name may become others
+// once a call is over, as a book has names of its own.
+func TestP2TextsHandedIn(t *testing.T) {
+	text, fill := borrowed(exampleText)
+	b := wantReads(t, text)
+	name, fillName := borrowed("new")
+	wantErrno(t, b.Open(name, api.Stock), api.OK)
+	into, fillInto := borrowed("new")
+	wantPost(t, b, 6, linesOf(into, 5, "rent", -5), 7, api.OK)
+	wantClose(t, b, 6, into, 8, api.OK)
+	fill()
+	fillName()
+	fillInto()
+	wantText(t, b, exampleText+"o new 0\np 6 new 5 rent -5\nc 6 new\n")
+	wantReverse(t, b, 7, 9, api.OK)
+	wantTrial(t, b, 5, 2, linesOf("Löhne", 70, "cash", -100, "rent", 30), api.OK)
+	wantTrial(t, b, 7, 9, linesOf("new", -5, "rent", 5), api.OK)
+}
+
+// borrowed is a text whose bytes can be written over.
+func borrowed(text string) (string, func()) {
+	raw := []byte(text)
+	return unsafe.String(&raw[0], len(raw)), func() { filled(raw, 'x') }
 }

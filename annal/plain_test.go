@@ -13,7 +13,10 @@ type plain struct {
 	kinds   map[string]int
 	entries []plainEntry
 	locked  [10000]bool
+	text    string
 }
+
+func newPlain() *plain { return &plain{kinds: map[string]int{}} }
 
 // plainEntry is at an end if it was reversed or reverses another one.
 type plainEntry struct {
@@ -52,6 +55,7 @@ func (p *plain) open(name string, kind int, right bool) api.Errno {
 		fault{api.ErrMany, len(p.kinds) == 10})
 	if errno == api.OK {
 		p.kinds[name] = kind
+		p.note("o %s %d", name, kind)
 	}
 	return errno
 }
@@ -77,6 +81,7 @@ func (p *plain) post(day int, lines []api.Line) (int, api.Errno) {
 	if errno != api.OK {
 		return 0, errno
 	}
+	p.note("p %d%s", day, wordsOf(lines))
 	return p.enter(day, amounts, false), api.OK
 }
 
@@ -113,6 +118,7 @@ func (p *plain) reverse(entry int) (int, api.Errno) {
 		amounts[name] = -amount
 	}
 	p.entries[entry-1].ended = true
+	p.note("r %d", entry)
 	return p.enter(day, amounts, true), api.OK
 }
 
@@ -122,6 +128,7 @@ func (p *plain) lock(day int) api.Errno {
 		fault{api.ErrLocked, p.isLocked(day)})
 	if errno == api.OK {
 		p.lockTo(day)
+		p.note("l %d", day)
 	}
 	return errno
 }
@@ -152,6 +159,7 @@ func (p *plain) close(day int, into string) (int, api.Errno) {
 	}
 	number := p.enter(day, amounts, false)
 	p.lockTo(day)
+	p.note("c %d %s", day, into)
 	return number, api.OK
 }
 

@@ -84,7 +84,7 @@ func (b *Book) isFull() bool { return len(b.entries) >= api.MaxEntries }
 
 // isReversed tells of an entry whether it was reversed or reverses another.
 func (b *Book) isReversed(number int) bool {
-	undoing := func(d deed) bool { return d.undoes() == number }
+	undoing := func(e entering) bool { return e.undoes() == number }
 	return b.entries[number-1].undoes() != 0 || slices.ContainsFunc(b.entries, undoing)
 }
 
